@@ -135,6 +135,10 @@ func TestCalendarsStay(t *testing.T) {
 		group.Go(func() {
 			for m := -api.Day; m < api.MaxTime+api.Day; m++ {
 				c.Open(m)
+				if m%97 == 0 {
+					c.Between(0, m)
+					c.Add(m, 60)
+				}
 			}
 		})
 	}
