@@ -109,10 +109,34 @@ func (d *Docket) Tick(n int) ([]api.Event, api.Errno) {
 }
 
 // Hold holds a case (P11).
-func (d *Docket) Hold(id int) api.Errno { return api.OK }
+func (d *Docket) Hold(id int) api.Errno {
+	d.mutex.Lock()
+	defer d.mutex.Unlock()
+	r := d.find(id)
+	if r == nil {
+		return api.ErrNone
+	}
+	if r.held {
+		return api.ErrHeld
+	}
+	d.hold(r)
+	return api.OK
+}
 
 // Resume lets it go on (P11).
-func (d *Docket) Resume(id int) api.Errno { return api.OK }
+func (d *Docket) Resume(id int) api.Errno {
+	d.mutex.Lock()
+	defer d.mutex.Unlock()
+	r := d.find(id)
+	if r == nil {
+		return api.ErrNone
+	}
+	if !r.held {
+		return api.ErrHeld
+	}
+	d.resume(r)
+	return api.OK
+}
 
 // Case tells of a case (P12).
 func (d *Docket) Case(id int) (api.State, api.Errno) {

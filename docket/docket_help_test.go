@@ -66,6 +66,20 @@ func wantClose(t *testing.T, d *docket.Docket, id int, want api.Errno) {
 	}
 }
 
+func wantHold(t *testing.T, d *docket.Docket, id int, want api.Errno) {
+	t.Helper()
+	if e := d.Hold(id); e != want {
+		t.Errorf("Hold(%d) = %d; want %d", id, e, want)
+	}
+}
+
+func wantResume(t *testing.T, d *docket.Docket, id int, want api.Errno) {
+	t.Helper()
+	if e := d.Resume(id); e != want {
+		t.Errorf("Resume(%d) = %d; want %d", id, e, want)
+	}
+}
+
 func wantTick(t *testing.T, d *docket.Docket, n int, want ...api.Event) {
 	t.Helper()
 	events, e := d.Tick(n)
@@ -82,9 +96,19 @@ func wantNoTick(t *testing.T, d *docket.Docket, n int) {
 	}
 }
 
+// wantCase wants a case that is not held.
 func wantCase(t *testing.T, d *docket.Docket, id, stage, level, due int) {
 	t.Helper()
-	want := api.State{Stage: stage, Level: level, Due: due}
+	wantState(t, d, id, api.State{Stage: stage, Level: level, Due: due})
+}
+
+func wantHeldCase(t *testing.T, d *docket.Docket, id, stage, level int) {
+	t.Helper()
+	wantState(t, d, id, api.State{Stage: stage, Level: level, Due: -1, Held: true})
+}
+
+func wantState(t *testing.T, d *docket.Docket, id int, want api.State) {
+	t.Helper()
 	s, e := d.Case(id)
 	if s != want || e != api.OK {
 		t.Errorf("Case(%d) = %v, %d; want %v, 0", id, s, e, want)

@@ -11,7 +11,8 @@ import (
 )
 
 // model is a docket that goes minute by minute, and reckons when a level is due
-// from when its case entered the stage, by the delays of all levels up to it (P13).
+// from when its case entered the stage, by the delays of all levels up to it (P13)
+// and by what lies between each Hold and its Resume (P14).
 type model struct {
 	ahead                []int
 	stages               []api.Stage
@@ -22,6 +23,8 @@ type model struct {
 type modelCase struct {
 	number, stage, entered, told int
 	due                          int // -1, if nothing is
+	held, rests                  bool
+	holdTime, idle               int // since when it is held; how long it was, in all
 }
 
 func (m *model) find(id int) *modelCase {
@@ -39,7 +42,7 @@ func (m *model) plan(c *modelCase) {
 	if c.told >= len(levels) {
 		return
 	}
-	sum := 0
+	sum := c.idle
 	for _, l := range levels[:c.told+1] {
 		sum += l.Delay
 	}
@@ -49,7 +52,7 @@ func (m *model) plan(c *modelCase) {
 }
 
 func (m *model) enter(c *modelCase, stage int) {
-	c.stage, c.entered, c.told = stage, m.time, 0
+	c.stage, c.entered, c.told, c.idle = stage, m.time, 0, 0
 	m.plan(c)
 }
 
@@ -72,6 +75,9 @@ func (m *model) move(id, stage int) api.Errno {
 	if c == nil {
 		return api.ErrNone
 	}
+	if c.held {
+		return api.ErrHeld
+	}
 	if !slices.Contains(m.stages[c.stage].Next, stage) {
 		return api.ErrMove
 	}
@@ -84,6 +90,35 @@ func (m *model) close(id int) api.Errno {
 		return api.ErrNone
 	}
 	m.cases = slices.DeleteFunc(m.cases, func(c *modelCase) bool { return c.number == id })
+	return api.OK
+}
+
+func (m *model) hold(id int) api.Errno {
+	c := m.find(id)
+	if c == nil {
+		return api.ErrNone
+	}
+	if c.held {
+		return api.ErrHeld
+	}
+	c.held, c.rests, c.holdTime, c.due = true, c.due >= 0, m.time, -1
+	return api.OK
+}
+
+func (m *model) resume(id int) api.Errno {
+	c := m.find(id)
+	if c == nil {
+		return api.ErrNone
+	}
+	if !c.held {
+		return api.ErrHeld
+	}
+	c.held = false
+	if c.rests {
+		c.rests = false
+		c.idle += m.ahead[m.time] - m.ahead[c.holdTime]
+		m.plan(c)
+	}
 	return api.OK
 }
 
@@ -112,10 +147,10 @@ func (m *model) state(id int) (api.State, api.Errno) {
 	if c == nil {
 		return api.State{}, api.ErrNone
 	}
-	if c.due < 0 {
-		return api.State{Stage: c.stage, Due: -1}, api.OK
+	if c.due < 0 && !c.rests {
+		return api.State{Stage: c.stage, Due: -1, Held: c.held}, api.OK
 	}
-	return api.State{Stage: c.stage, Level: c.told, Due: c.due}, api.OK
+	return api.State{Stage: c.stage, Level: c.told, Due: c.due, Held: c.held}, api.OK
 }
 
 func (m *model) agenda() []api.Entry {
@@ -162,7 +197,7 @@ func wantSame(t *testing.T, d *docket.Docket, m *model, pick choice) {
 	if len(m.cases) > 0 && pick(4) > 0 {
 		id = m.cases[pick(len(m.cases))].number
 	}
-	switch pick(8) {
+	switch pick(12) {
 	case 0, 1:
 		wantId, want := m.open(stage)
 		if got, e := d.Open(stage); got != wantId || e != want {
@@ -172,6 +207,10 @@ func wantSame(t *testing.T, d *docket.Docket, m *model, pick choice) {
 		wantMove(t, d, id, stage, m.move(id, stage))
 	case 4:
 		wantClose(t, d, id, m.close(id))
+	case 5, 6:
+		wantHold(t, d, id, m.hold(id))
+	case 7, 8:
+		wantResume(t, d, id, m.resume(id))
 	default:
 		n := pick(3000 >> pick(12))
 		if pick(16) == 0 {
@@ -198,11 +237,11 @@ func wantSameAnswers(t *testing.T, d *docket.Docket, m *model) {
 	wantNow(t, d, m.time, m.events)
 }
 
-// P9, P10, P12: many calls in any order, held against the model.
+// P9 to P12: many calls in any order, held against the model.
 func TestDocketsOfManyKinds(t *testing.T) {
 	dice := rand.New(rand.NewPCG(9, 12))
 	var pick choice = dice.IntN
-	for k := range 120 {
+	for k := range 300 {
 		text := calendars[k%len(calendars)]
 		if k%2 == 1 {
 			text = anyCalendar(dice)
@@ -219,7 +258,7 @@ func TestDocketsOfManyKinds(t *testing.T) {
 	}
 }
 
-// P1, P7 to P10, P12: whatever the calendar, the stages and the calls, the model's answers.
+// P1, P7 to P12: whatever the calendar, the stages and the calls, the model's answers.
 func FuzzDocket(f *testing.F) {
 	f.Add(office, []byte("some stages, and then some calls"))
 	f.Add(always, []byte{2, 0, 4, 1, 0, 13, 1, 5, 1, 13, 2, 6, 2, 1, 0, 0, 0, 0, 0, 1, 1, 0, 7, 11, 100, 1, 1, 0, 2})

@@ -18,6 +18,7 @@ type record struct {
 	course course
 	level  int  // the next one; 0, if the course is nothing
 	due    int  // of a running one
+	rest   int  // of a resting one: the business minutes that are still to go by
 	held   bool // if so, the course is not running: its time stands still
 }
 
@@ -42,16 +43,45 @@ func (d *Docket) enter(r *record, stage int) {
 
 // await makes a level the next one of a case, its delay reckoned from a time.
 func (d *Docket) await(r *record, level, from int) {
-	r.course, r.level, r.due = nothing, 0, 0
 	levels := d.stages[r.stage].levels
 	if level >= len(levels) {
+		r.stop()
 		return
 	}
-	due, e := d.calendar.Add(from, levels[level].Delay)
-	if e != api.OK {
+	d.run(r, level, from, levels[level].Delay)
+}
+
+// run lets a level of a case be due when so many business minutes have gone by from a time on.
+func (d *Docket) run(r *record, level, from, minutes int) {
+	r.stop()
+	due, e := d.calendar.Add(from, minutes)
+	if e == api.OK {
+		r.course, r.level, r.due = running, level, due
+	}
+}
+
+// stop leaves a case with nothing to come.
+func (r *record) stop() {
+	r.course, r.level, r.due, r.rest = nothing, 0, 0, 0
+}
+
+// hold lets the time of a case stand still.
+func (d *Docket) hold(r *record) {
+	r.held = true
+	if r.course != running {
 		return
 	}
-	r.course, r.level, r.due = running, level, due
+	// There is no error: what was due up to now has been told, so this is due later.
+	rest, _ := d.calendar.Between(d.time, r.due)
+	r.course, r.due, r.rest = resting, 0, rest
+}
+
+// resume lets the time of a case go on from now, with what was left of it.
+func (d *Docket) resume(r *record) {
+	r.held = false
+	if r.course == resting {
+		d.run(r, r.level, d.time, r.rest)
+	}
 }
 
 // tell makes the event of a running case, and lets it go on to its next level.

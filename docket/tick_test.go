@@ -10,7 +10,7 @@ import (
 	"docket/docket"
 )
 
-// P10, P12: the document's example, as far as nothing is held.
+// P10, P12: the document's example, if nothing is held.
 func TestTickOfTheDocument(t *testing.T) {
 	d := newDocket(t, office, documentStages()...)
 	wantOpened(t, d, 0, 1)
@@ -212,6 +212,8 @@ func busyRound(d *docket.Docket, ids, numbers []int) ([]int, []int) {
 	d.Now()
 	if e == api.OK {
 		ids = append(ids, id)
+		d.Hold(id)
+		d.Resume(id)
 		d.Move(id, 1)
 		d.Case(id)
 		d.Close(id)
